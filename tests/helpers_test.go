@@ -99,3 +99,34 @@ func wantApart(t *testing.T, what string, call func(given [][]int) []int, argume
 	}
 	wantRow(t, second, want, what+" after the arguments were written to")
 }
+
+// wantListsApart calls a function that returns several lists twice. It fails if a list, or what is behind it in its memory, shares memory with another one of the same result or of the other one; or if both results differ.
+func wantListsApart(t *testing.T, what string, call func() [][]int) {
+	t.Helper()
+	first, second := call(), call()
+	if len(first) == 0 || len(first) != len(second) {
+		t.Fatalf("%s: %d lists, and %d called again", what, len(first), len(second))
+	}
+	lists := slices.Concat(first, second)
+	want := make([][]int, len(lists))
+	for i, list := range lists {
+		want[i] = slices.Clone(list)
+	}
+	for i := range first {
+		wantRow(t, second[i], want[i], what+" called again, list", i)
+	}
+	for i, list := range lists {
+		overwrite(list, 91+i)
+		for j, other := range lists[i+1:] {
+			wantRow(t, other, want[i+1+j], what+" after another list was written to, list", i+1+j)
+		}
+	}
+	for i, spare := 0, first[:cap(first)]; i < len(spare); i++ {
+		spare[i] = nil
+	}
+	for i, list := range second {
+		if len(list) != len(want[i]) {
+			t.Errorf("%s: list %d became %v after the other result was written to", what, i, list)
+		}
+	}
+}
