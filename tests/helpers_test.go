@@ -121,6 +121,10 @@ func wantListsApart(t *testing.T, what string, call func() [][]int) {
 			wantRow(t, other, want[i+1+j], what+" after another list was written to, list", i+1+j)
 		}
 	}
+	// A list of later on may reach back, with its spare capacity, into one that was looked at before.
+	for i, list := range lists {
+		wantRow(t, list, filled(len(list), 91+i), what+" after all lists were written to, list", i)
+	}
 	for i, spare := 0, first[:cap(first)]; i < len(spare); i++ {
 		spare[i] = nil
 	}
