@@ -419,7 +419,7 @@ func TestAddedPlaceByPlace(t *testing.T) {
 
 // Promise 55: after so many steps the row is as after the lesser number, and no two rows before are the same.
 func TestRowsComeAgain(t *testing.T) {
-	eachBits(func(row []int) {
+	eachOfAllBits(func(row []int) {
 		steps, first := comesAgainByRows(row)
 		wantComesAgain(t, row, steps, first)
 		if first < 0 || first >= steps || steps > mostSummed {
